@@ -5,13 +5,11 @@ import (
 	"auditbook/api"
 	"auditbook/event"
 	"auditbook/hash"
+	"auditbook/tree"
 )
 
 // Sum is SHA-256 (P3).
-func Sum(s string) string {
-	h := hash.Of(s)
-	return string(h[:])
-}
+func Sum(s string) string { return hash.Of(s).Text() }
 
 // Encode writes an event (P4).
 func Encode(e api.Event) (string, error) { return event.Encode(e) }
@@ -20,19 +18,23 @@ func Encode(e api.Event) (string, error) { return event.Encode(e) }
 func Decode(b string) (api.Event, error) { return event.Decode(b) }
 
 // Root is the root of the tree over leaves (P5).
-func Root(leaves []string) string { return "" }
+func Root(leaves []string) string { return tree.Root(leaves).Text() }
 
 // Inclusion proves that a leaf is in the tree (P6).
-func Inclusion(leaves []string, i int) ([]string, error) { return nil, nil }
+func Inclusion(leaves []string, i int) ([]string, error) { return tree.Inclusion(leaves, i) }
 
 // Consistency proves that the tree over the first leaves is within the tree over all (P6).
-func Consistency(leaves []string, m int) ([]string, error) { return nil, nil }
+func Consistency(leaves []string, m int) ([]string, error) { return tree.Consistency(leaves, m) }
 
 // CheckInclusion checks such a proof (P7).
-func CheckInclusion(leaf string, i, n int, root string, proof []string) error { return nil }
+func CheckInclusion(leaf string, i, n int, root string, proof []string) error {
+	return tree.CheckInclusion(leaf, i, n, root, proof)
+}
 
 // CheckConsistency checks such a proof (P7).
-func CheckConsistency(m, n int, first, second string, proof []string) error { return nil }
+func CheckConsistency(m, n int, first, second string, proof []string) error {
+	return tree.CheckConsistency(m, n, first, second, proof)
+}
 
 // PublicKey is what signatures are checked by (P8).
 func PublicKey(seed string, height int) (string, error) { return "", nil }

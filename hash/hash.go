@@ -21,6 +21,19 @@ type Hash [api.HashSize]byte
 // state is what is known of the blocks so far.
 type state [api.HashSize / word.Size]uint32
 
+// Read gives the hash whose bytes a text is, and tells if it is one.
+func Read(text string) (Hash, bool) {
+	if len(text) != api.HashSize {
+		return Hash{}, false
+	}
+	var h Hash
+	copy(h[:], text)
+	return h, true
+}
+
+// Text gives the bytes of a hash.
+func (h Hash) Text() string { return string(h[:]) }
+
 // rounds has a number for each round: the first 32 bits behind the point of the cube roots of the first 64 primes.
 var rounds = [roundCount]uint32{
 	0x428a2f98, 0x71374491, 0xb5c0fbcf, 0xe9b5dba5, 0x3956c25b, 0x59f111f1, 0x923f82a4, 0xab1c5ed5,

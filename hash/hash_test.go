@@ -54,6 +54,27 @@ func TestListIsNotWrittenInto(t *testing.T) {
 	}
 }
 
+func TestTextsAreReadBack(t *testing.T) {
+	for _, text := range []string{"", "abc", long(100)} {
+		want := Of(text)
+		if got, ok := Read(want.Text()); !ok || got != want {
+			t.Errorf("%x is read as %x, %v", want, got, ok)
+		}
+	}
+}
+
+func TestTextsOfAnotherLengthAreNoHashes(t *testing.T) {
+	for n := range 100 {
+		got, ok := Read(long(n))
+		if ok != (n == 32) {
+			t.Errorf("a text of %d bytes is a hash: %v", n, ok)
+		}
+		if !ok && got != (Hash{}) {
+			t.Errorf("a text of %d bytes is read as %x", n, got)
+		}
+	}
+}
+
 func TestPadFillsWholeBlocks(t *testing.T) {
 	for n := range 4 * blockSize {
 		padded := pad([]string{long(n)})
