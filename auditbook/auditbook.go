@@ -5,6 +5,7 @@ import (
 	"auditbook/api"
 	"auditbook/event"
 	"auditbook/hash"
+	"auditbook/sign"
 	"auditbook/tree"
 )
 
@@ -37,13 +38,17 @@ func CheckConsistency(m, n int, first, second string, proof []string) error {
 }
 
 // PublicKey is what signatures are checked by (P8).
-func PublicKey(seed string, height int) (string, error) { return "", nil }
+func PublicKey(seed string, height int) (string, error) { return sign.PublicKey(seed, height) }
 
 // Sign signs with key number k (P8).
-func Sign(seed string, height, k int, msg string) (string, error) { return "", nil }
+func Sign(seed string, height, k int, msg string) (string, error) {
+	return sign.Sign(seed, height, k, msg)
+}
 
 // Check checks a signature; the number of the key (P9).
-func Check(key string, height int, msg, sig string) (int, error) { return 0, nil }
+func Check(key string, height int, msg, sig string) (int, error) {
+	return sign.Check(key, height, msg, sig)
+}
 
 // Format lays an empty book on a device (P10).
 func Format(d api.Device) error { return nil }
