@@ -5,8 +5,11 @@ import (
 	"auditbook/api"
 	"auditbook/event"
 	"auditbook/hash"
+	"auditbook/journal"
+	"auditbook/node"
 	"auditbook/sign"
 	"auditbook/tree"
+	"auditbook/volume"
 )
 
 // Sum is SHA-256 (P3).
@@ -51,19 +54,31 @@ func Check(key string, height int, msg, sig string) (int, error) {
 }
 
 // Format lays an empty book on a device (P10).
-func Format(d api.Device) error { return nil }
+func Format(d api.Device) error {
+	v, err := volume.Of(d)
+	if err != nil {
+		return err
+	}
+	return journal.Format(v)
+}
 
 // Node is one of a chain.
-type Node struct{}
+type Node struct{ inner *node.Node }
 
 // Open opens the book that is on a device, as node number role of a chain whose last one is last (P11).
-func Open(d api.Device, role, last int, seed string, height int) (*Node, error) { return nil, nil }
+func Open(d api.Device, role, last int, seed string, height int) (*Node, error) {
+	inner, err := node.Open(d, role, last, seed, height)
+	if err != nil {
+		return nil, err
+	}
+	return &Node{inner: inner}, nil
+}
 
 // See tells all that can be seen (P11).
-func (x *Node) See() api.State { return api.State{} }
+func (x *Node) See() api.State { return x.inner.See() }
 
 // Request takes a client's request (P12 to P14).
-func (x *Node) Request(r api.Request) ([]api.Packet, error) { return nil, nil }
+func (x *Node) Request(r api.Request) ([]api.Packet, error) { return x.inner.Request(r) }
 
 // Receive takes a packet (P15).
 func (x *Node) Receive(b string) ([]api.Packet, error) { return nil, nil }

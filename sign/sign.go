@@ -14,7 +14,7 @@ const (
 
 // PublicKey gives what signatures are checked by, or ErrSeed if the seed or the height is none.
 func PublicKey(seed string, height int) (string, error) {
-	if !fits(seed, height) {
+	if !Fits(seed, height) {
 		return "", api.ErrSeed
 	}
 	return tree.Root(leaves(seed, height)).Text(), nil
@@ -22,7 +22,7 @@ func PublicKey(seed string, height int) (string, error) {
 
 // Sign signs a message with key k; ErrSeed or ErrIndex tells that there is no such key.
 func Sign(seed string, height, k int, msg string) (string, error) {
-	if !fits(seed, height) {
+	if !Fits(seed, height) {
 		return "", api.ErrSeed
 	}
 	path, err := tree.Inclusion(leaves(seed, height), k)
@@ -42,7 +42,7 @@ func Sign(seed string, height, k int, msg string) (string, error) {
 
 // Check gives the number of the key that signed the message; ErrSeed if the public key or the height is none, ErrSignature if none of its keys did.
 func Check(key string, height int, msg, sig string) (int, error) {
-	if !fits(key, height) {
+	if !Fits(key, height) {
 		return 0, api.ErrSeed
 	}
 	if len(sig) != size(height) {
@@ -57,8 +57,8 @@ func Check(key string, height int, msg, sig string) (int, error) {
 	return k, nil
 }
 
-// fits tells if a text can be a seed or a public key, and a number the height of a tree of keys.
-func fits(text string, height int) bool {
+// Fits tells if a text can be a seed or a public key, and a number the height of a tree of keys.
+func Fits(text string, height int) bool {
 	return len(text) == api.HashSize && 0 <= height && height <= api.MaxHeight
 }
 

@@ -1,0 +1,92 @@
+package book
+
+import (
+	"errors"
+	"testing"
+
+	"auditbook/api"
+	"auditbook/entry"
+	"auditbook/journal"
+	"auditbook/volume"
+)
+
+func formatted(t *testing.T, d *api.Disk) volume.Volume {
+	t.Helper()
+	v, err := volume.Of(d)
+	if err == nil {
+		err = journal.Format(v)
+	}
+	if err != nil {
+		t.Fatal(err)
+	}
+	return v
+}
+
+func TestEveryRequestFitsIntoARecord(t *testing.T) {
+	if entry.MaxSize > journal.MaxRecord {
+		t.Errorf("requests have up to %d bytes, records %d", entry.MaxSize, journal.MaxRecord)
+	}
+}
+
+func TestRecordsThatAreNoEntries(t *testing.T) {
+	for _, record := range []string{"", "R", "nothing known"} {
+		v := formatted(t, api.NewDisk(8))
+		j, _, err := journal.Open(v)
+		if err == nil {
+			err = j.Append(record)
+		}
+		if err != nil {
+			t.Fatal(err)
+		}
+		if b, err := Open(v); b != nil || !errors.Is(err, api.ErrCorrupt) {
+			t.Errorf("P11: Open with the record %q: %v, %v", record, b, err)
+		}
+	}
+}
+
+func TestEntriesAndTheirAnswers(t *testing.T) {
+	v := formatted(t, api.NewDisk(8))
+	b, err := Open(v)
+	if err != nil {
+		t.Fatal(err)
+	}
+	create := api.Request{Client: 1, No: 5, Op: api.Create, Patient: 3, Text: "abc"}
+	read := api.Request{Client: 2, No: 1, Op: api.Read, Patient: 3}
+	for _, r := range []api.Request{create, read} {
+		if err := b.Take(r); err != nil {
+			t.Fatal(err)
+		}
+	}
+	again, err := Open(v)
+	if err != nil {
+		t.Fatal(err)
+	}
+	for _, b := range []*Book{b, again} {
+		first := entry.Entry{Request: create, Answer: api.Answer{Version: 1}}
+		second := entry.Entry{Request: read, Answer: api.Answer{Version: 1, Text: "abc"}}
+		if b.Entries() != 2 || b.Entry(1) != first || b.Entry(2) != second {
+			t.Errorf("P11: the log is %+v", b.log)
+		}
+		if b.Last(1) != 1 || b.Last(2) != 2 || b.Last(3) != 0 || b.Records() != 1 || b.Full() {
+			t.Errorf("P11: lasts %v, %d records", b.lasts, b.Records())
+		}
+	}
+}
+
+func TestWhatIsNotSureIsNotInTheLog(t *testing.T) {
+	d := api.NewDisk(8)
+	b, err := Open(formatted(t, d))
+	if err != nil {
+		t.Fatal(err)
+	}
+	create := api.Request{Client: 1, No: 5, Op: api.Create, Patient: 3, Text: "abc"}
+	for at := range 2 {
+		d.Bad(at, 1)
+		if err := b.Take(create); !errors.Is(err, api.ErrIO) {
+			t.Errorf("P1: Take with an error of call %d: %v", at, err)
+		}
+		if b.Entries() != 0 || b.Last(1) != 0 || b.Records() != 0 {
+			t.Errorf("P18: %d entries that are not sure", b.Entries())
+		}
+	}
+}
