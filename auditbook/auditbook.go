@@ -81,13 +81,13 @@ func (x *Node) See() api.State { return x.inner.See() }
 func (x *Node) Request(r api.Request) ([]api.Packet, error) { return x.inner.Request(r) }
 
 // Receive takes a packet (P15).
-func (x *Node) Receive(b string) ([]api.Packet, error) { return nil, nil }
+func (x *Node) Receive(b string) ([]api.Packet, error) { return x.inner.Receive(b) }
 
 // Tick is one tick of the clock (P16).
-func (x *Node) Tick() ([]api.Packet, error) { return nil, nil }
+func (x *Node) Tick() ([]api.Packet, error) { return x.inner.Tick() }
 
 // Head is a signed head of the log (P17).
-func (x *Node) Head() (string, error) { return "", nil }
+func (x *Node) Head() (string, error) { return x.inner.Head() }
 
 // Event is an event of the log, with a proof that it is in the tree over the first n (P18).
 func (x *Node) Event(i, n int) (string, []string, error) { return "", nil, nil }

@@ -306,6 +306,14 @@ func wantFailed(t *testing.T, x *auditbook.Node, r api.Request) {
 	for _, again := range []api.Request{r, {}, create(1, 1, 1, ""), create(8, 1, 1, "")} {
 		wantRefused(t, "P1: a node that has failed", x, again, api.ErrFailed)
 	}
+	for _, b := range []string{"", "no packet", ackBytes(1), askBytes(0), forwardBytes(1, r), forwardBytes(9, r)} {
+		wantNotReceived(t, "P1: a node that has failed", x, b, api.ErrFailed)
+	}
+	wantNothing(t, "P1: Tick of a node that has failed", x, api.ErrFailed, x.Tick)
+	head, err := x.Head()
+	if wantErr(t, "P1: Head of a node that has failed", err, api.ErrFailed); head != "" {
+		t.Errorf("P1: Head of a node that has failed: %q", head)
+	}
 	wantState(t, "P11: a node that has failed", x, api.State{})
 }
 
@@ -502,6 +510,10 @@ func askAll(d api.Device) {
 		}
 		x.Request(create(1, 1, 1, "x"))
 		x.Request(create(1, 2, 1, "x"))
+		for _, b := range []string{forwardBytes(1, create(1, 1, 1, "x")), forwardBytes(2, create(1, 2, 1, "x")), ackBytes(1), askBytes(0)} {
+			x.Receive(b)
+			x.Tick()
+		}
 		x.See()
 	}
 }

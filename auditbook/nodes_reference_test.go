@@ -103,10 +103,14 @@ func (l refLog) forwards(to, n int) []api.Packet {
 }
 
 func (l refLog) forward(to, n int) api.Packet {
-	r := l[n-1]
+	return api.Packet{To: to, Bytes: forwardBytes(n, l[n-1])}
+}
+
+// forwardBytes are those of a Forward of entry n, whatever is asked for there.
+func forwardBytes(n int, r api.Request) string {
 	head := []byte{'F', byte(n >> 24), byte(n >> 16), byte(n >> 8), byte(n)}
 	body := []byte{'R', byte(r.Client), byte(r.No >> 24), byte(r.No >> 16), byte(r.No >> 8), byte(r.No), byte(r.Op), byte(r.Patient), byte(r.Version), byte(len(r.Text))}
-	return api.Packet{To: to, Bytes: string(head) + string(body) + r.Text}
+	return string(head) + string(body) + r.Text
 }
 
 // request is P14 for node 0 of a chain, which has heard no Ack: what comes out, and the log behind it.

@@ -60,8 +60,14 @@ func wantPackets(t *testing.T, what string, x *auditbook.Node, r api.Request, wa
 
 func wantRefused(t *testing.T, what string, x *auditbook.Node, r api.Request, want error) {
 	t.Helper()
+	wantNothing(t, what, x, want, func() ([]api.Packet, error) { return x.Request(r) })
+}
+
+// wantNothing: a call is answered with an error, and changes nothing.
+func wantNothing(t *testing.T, what string, x *auditbook.Node, want error, call func() ([]api.Packet, error)) {
+	t.Helper()
 	before := x.See()
-	got, err := x.Request(r)
+	got, err := call()
 	wantErr(t, what, err, want)
 	if got != nil {
 		t.Errorf("P1: %s: packets with an error: %+v", what, got)

@@ -64,5 +64,14 @@ func (b *Book) Entry(n int) entry.Entry { return b.log[n-1] }
 // Last is the number of a client's last entry, or 0 if it has none.
 func (b *Book) Last(client int) int { return b.lasts[client] }
 
+// LastNo is what No a client's last request had, or 0, which is below all, if it has none.
+func (b *Book) LastNo(client int) int {
+	n := b.Last(client)
+	if n == 0 {
+		return 0
+	}
+	return b.Entry(n).No
+}
+
 // Records is how many records there are.
 func (b *Book) Records() int { return len(b.records) }

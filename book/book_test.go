@@ -90,3 +90,22 @@ func TestWhatIsNotSureIsNotInTheLog(t *testing.T) {
 		}
 	}
 }
+
+func TestLastNo(t *testing.T) {
+	v := formatted(t, api.NewDisk(8))
+	b, err := Open(v)
+	if err != nil {
+		t.Fatal(err)
+	}
+	for _, r := range []api.Request{{Client: 1, No: 5}, {Client: 2, No: api.MaxNumber}, {Client: 1, No: 7}} {
+		r.Op, r.Patient = api.Read, 1
+		if err := b.Take(r); err != nil {
+			t.Fatal(err)
+		}
+	}
+	for client, want := range map[int]int{1: 7, 2: api.MaxNumber, 3: 0} {
+		if got := b.LastNo(client); got != want {
+			t.Errorf("P14: the last No of client %d is %d, want %d", client, got, want)
+		}
+	}
+}

@@ -1,11 +1,10 @@
-// Package node is a node of a chain: what it makes of requests, with its book.
+// Package node is a node of a chain: what it makes of requests and packets, with its book.
 package node
 
 import (
 	"auditbook/api"
 	"auditbook/book"
 	"auditbook/entry"
-	"auditbook/packet"
 	"auditbook/sign"
 	"auditbook/volume"
 )
@@ -14,7 +13,8 @@ import (
 type Node struct {
 	place
 	*book.Book
-	known  int // entries that a node which is not the last knows to be in all logs
+	known  int  // entries that a node which is not the last knows to be in all logs
+	heard  bool // a Forward has come
 	failed bool
 }
 
@@ -65,35 +65,22 @@ func (x *Node) Request(r api.Request) ([]api.Packet, error) {
 	if !entry.Whole(r) {
 		return nil, api.ErrRequest
 	}
-	last := x.Last(r.Client)
-	if last == 0 || r.No > x.Entry(last).No {
-		return x.take(r)
-	}
-	if r.No < x.Entry(last).No {
+	no := x.LastNo(r.Client)
+	if r.No < no {
 		return nil, api.ErrOld
 	}
-	return x.again(last), nil
+	if r.No == no {
+		return x.again(x.Last(r.Client)), nil
+	}
+	return x.take(r)
 }
 
 // again gives what comes out for entry n if its client asks once more.
 func (x *Node) again(n int) []api.Packet {
 	if n <= x.acked() {
-		return []api.Packet{packet.Answer(x.Entry(n))}
+		return []api.Packet{x.answer(n)}
 	}
-	return x.forwards(x.acked() + 1)
-}
-
-// forwards hands on the entries from n on, a few at a time.
-func (x *Node) forwards(n int) []api.Packet {
-	var sent []api.Packet
-	for ; n <= x.Entries() && len(sent) < api.MaxAhead; n++ {
-		sent = append(sent, x.forward(n))
-	}
-	return sent
-}
-
-func (x *Node) forward(n int) api.Packet {
-	return packet.Forward(x.next(), n, x.Entry(n).Request)
+	return x.forwardsBehind(x.acked())
 }
 
 // take makes a request a new entry.
@@ -106,8 +93,19 @@ func (x *Node) take(r api.Request) ([]api.Packet, error) {
 		return nil, err
 	}
 	n := x.Entries()
-	if x.isLast() {
-		return []api.Packet{packet.Answer(x.Entry(n))}, nil
+	if !x.isLast() {
+		return []api.Packet{x.forward(n)}, nil
 	}
-	return []api.Packet{x.forward(n)}, nil
+	if x.isFirst() {
+		return []api.Packet{x.answer(n)}, nil
+	}
+	return []api.Packet{x.ack(), x.answer(n)}, nil
+}
+
+// Head signs no head yet; a node that has failed says so all the same.
+func (x *Node) Head() (string, error) {
+	if x.failed {
+		return "", api.ErrFailed
+	}
+	return "", nil
 }

@@ -14,5 +14,8 @@ func (p place) isFirst() bool { return p.role == 0 }
 
 func (p place) isLast() bool { return p.role == p.last }
 
+// ahead is the node from which this one gets its entries.
+func (p place) ahead() int { return p.role - 1 }
+
 // next is the node to which this one forwards.
 func (p place) next() int { return p.role + 1 }
