@@ -3,6 +3,7 @@ package auditbook
 
 import (
 	"auditbook/api"
+	"auditbook/auditor"
 	"auditbook/event"
 	"auditbook/hash"
 	"auditbook/journal"
@@ -90,22 +91,30 @@ func (x *Node) Tick() ([]api.Packet, error) { return x.inner.Tick() }
 func (x *Node) Head() (string, error) { return x.inner.Head() }
 
 // Event is an event of the log, with a proof that it is in the tree over the first n (P18).
-func (x *Node) Event(i, n int) (string, []string, error) { return "", nil, nil }
+func (x *Node) Event(i, n int) (string, []string, error) { return x.inner.Event(i, n) }
 
 // Grown proves that the tree over the first m is within that over the first n (P18).
-func (x *Node) Grown(m, n int) ([]string, error) { return nil, nil }
+func (x *Node) Grown(m, n int) ([]string, error) { return x.inner.Grown(m, n) }
 
 // Auditor trusts a head.
-type Auditor struct{}
+type Auditor struct{ inner *auditor.Auditor }
 
 // NewAuditor trusts the empty log (P19).
-func NewAuditor(key string, height int) (*Auditor, error) { return nil, nil }
+func NewAuditor(key string, height int) (*Auditor, error) {
+	inner, err := auditor.New(key, height)
+	if err != nil {
+		return nil, err
+	}
+	return &Auditor{inner: inner}, nil
+}
 
 // Trusted is what it trusts: a size, and a root (P19).
-func (a *Auditor) Trusted() (int, string) { return 0, "" }
+func (a *Auditor) Trusted() (int, string) { return a.inner.Trusted() }
 
 // Advance takes a signed head, with a proof that the log has grown (P19).
-func (a *Auditor) Advance(head string, proof []string) error { return nil }
+func (a *Auditor) Advance(head string, proof []string) error { return a.inner.Advance(head, proof) }
 
 // Confirm takes an event, with a proof that it is in the log (P19).
-func (a *Auditor) Confirm(event string, i int, proof []string) error { return nil }
+func (a *Auditor) Confirm(event string, i int, proof []string) error {
+	return a.inner.Confirm(event, i, proof)
+}

@@ -103,11 +103,14 @@ type storm struct {
 	nodes   []*auditbook.Node
 	sure    []int         // entries that each node had at the least
 	asked   []api.Request // by client: its last request
+	auditor *auditbook.Auditor
+	signed  []string // by key: what it signed
 }
 
 func newStorm(t *testing.T, rnd *rand.Rand, last int) *storm {
 	t.Helper()
-	s := &storm{post: newPost(rnd), t: t, asked: make([]api.Request, api.MaxClient+1)}
+	s := &storm{post: newPost(rnd), t: t, asked: make([]api.Request, api.MaxClient+1), signed: make([]string, 1<<aHeight)}
+	s.auditor = mustAudit(t, aKeys().public(aHeight), aHeight)
 	for role := range last + 1 {
 		d := newShaky(rnd, 60+rnd.Intn(40))
 		if err := auditbook.Format(d); err != nil {
@@ -123,7 +126,7 @@ func newStorm(t *testing.T, rnd *rand.Rand, last int) *storm {
 // open opens a node again, once more on a sound device if that fails.
 func (s *storm) open(role int) {
 	for range 2 {
-		x, err := auditbook.Open(s.devices[role], role, len(s.nodes)-1, aSeed(), 2)
+		x, err := auditbook.Open(s.devices[role], role, len(s.nodes)-1, aSeed(), aHeight)
 		if err == nil {
 			s.nodes[role] = x
 			s.grown(role)
@@ -193,6 +196,27 @@ func (s *storm) tickAll() {
 	}
 }
 
+// head lets the last node sign, and the auditor follow.
+func (s *storm) head() {
+	last := len(s.nodes) - 1
+	head, err := s.nodes[last].Head()
+	if plain.Told(err) == api.ErrKeys {
+		return
+	}
+	if s.heard(last, nil, err); err != nil {
+		return
+	}
+	k, err := auditbook.Check(aKeys().public(aHeight), aHeight, head[:37], head[37:])
+	if err != nil || s.signed[k] != "" && s.signed[k] != head {
+		s.t.Fatalf("P17: key %d signs %x, %v, behind %.37x..", k, head[:37], err, s.signed[k])
+	}
+	s.signed[k] = head
+	m, _ := s.auditor.Trusted()
+	proof, err := s.nodes[last].Grown(m, s.sure[last])
+	wantNil(s.t, "P18: Grown", err)
+	wantNil(s.t, "P19: Advance", s.auditor.Advance(head, proof))
+}
+
 func (s *storm) next(no int) {
 	role := s.rnd.Intn(len(s.nodes))
 	s.devices[role].fails = []int{0, 0, 3, 30}[s.rnd.Intn(4)]
@@ -204,6 +228,8 @@ func (s *storm) next(no int) {
 	case what == 6:
 		s.devices[role].cut()
 		s.open(role)
+	case what == 7 && s.rnd.Intn(6) == 0:
+		s.head()
 	default:
 		s.step(s.receive)
 	}
@@ -238,6 +264,34 @@ func (s *storm) log() refLog {
 	}
 }
 
+// keys is how many a node has used: more than have signed only if the last node was cut off.
+func (s *storm) keys(role int) int {
+	used := s.nodes[role].See().Keys
+	if role < len(s.nodes)-1 && used != 0 {
+		s.t.Fatalf("P17: node %d has used %d keys", role, used)
+	}
+	for k, head := range s.signed {
+		if role == len(s.nodes)-1 && head != "" && k >= used {
+			s.t.Fatalf("P17: key %d has signed, and %d are used", k, used)
+		}
+	}
+	return used
+}
+
+// wantConfirmed: all that the auditor trusts is what the log says.
+func (s *storm) wantConfirmed(log refLog) {
+	n, root := s.auditor.Trusted()
+	events := log.events()[:n]
+	if root != refRoot(events) {
+		s.t.Fatalf("P19: of %d events %x is trusted", n, root)
+	}
+	for i, e := range events {
+		_, proof, err := s.nodes[len(s.nodes)-1].Event(i, n)
+		wantNil(s.t, "P18: Event", err)
+		wantNil(s.t, "P19: Confirm", s.auditor.Confirm(e, i, proof))
+	}
+}
+
 func TestChainsInAStorm(t *testing.T) {
 	for last := 1; last <= 2; last++ {
 		for trial := range 60 {
@@ -248,10 +302,13 @@ func TestChainsInAStorm(t *testing.T) {
 			s.calm()
 			log := s.log()
 			for role, x := range s.nodes {
-				wantState(t, "P16: at rest", x, log.state(true))
-				wantLog(t, "P16: at rest", s.devices[role], log)
+				want := log.state(true)
+				want.Keys = s.keys(role)
+				wantState(t, "P16: at rest", x, want)
+				wantBook(t, "P16: at rest", s.devices[role], log, want.Keys)
 			}
 			s.wantAnswers(t, log)
+			s.wantConfirmed(log)
 			if t.Failed() {
 				t.FailNow()
 			}

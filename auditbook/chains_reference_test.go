@@ -49,14 +49,20 @@ func refParse(b string) (refPacket, bool) {
 	return p, wrong == nil && p.n > 0 && body.Mark == 'R' && int(body.Length) == len(text) && refWhole(p.r)
 }
 
-// refNode is a second make of P14 to P16: a log, and what a node knows besides.
+// refNode is a second make of P14 to P18: a log, and what a node knows besides.
 type refNode struct {
 	log        refLog
 	role, last int
 	blocks     int
+	keys       int
 	acks       int
 	heard      bool
+	head       string
+	headOver   int
 }
+
+// room is how many entries there may be.
+func (x *refNode) room() int { return x.blocks - 1 - x.keys }
 
 func (x *refNode) acked() int {
 	if x.role == x.last {
@@ -67,11 +73,11 @@ func (x *refNode) acked() int {
 
 func (x *refNode) state() api.State {
 	s := x.log.state(false)
-	s.Acked = x.acked()
+	s.Acked, s.Keys = x.acked(), x.keys
 	return s
 }
 
-func (x *refNode) reopen() { x.acks, x.heard = 0, false }
+func (x *refNode) reopen() { x.acks, x.heard, x.head = 0, false, "" }
 
 func (x *refNode) toAhead(b string) []api.Packet { return []api.Packet{{To: x.role - 1, Bytes: b}} }
 
@@ -89,7 +95,7 @@ func (x *refNode) request(r api.Request) ([]api.Packet, api.Errno) {
 		}
 		return []api.Packet{x.log.answerPacket(n)}, api.OK
 	}
-	sent, err, then := x.log.request(r, x.last, x.blocks)
+	sent, err, then := x.log.request(r, x.last, x.room()+1)
 	x.log = then
 	return sent, err
 }
@@ -127,7 +133,7 @@ func (x *refNode) forwarded(n int, r api.Request) ([]api.Packet, api.Errno) {
 	if before := x.log.last(r.Client); before > 0 && r.No <= x.log[before-1].No {
 		return nil, api.ErrRequest
 	}
-	if len(x.log) == x.blocks-1 {
+	if len(x.log) == x.room() {
 		return nil, api.ErrFull
 	}
 	x.log = append(x.log[:len(x.log):len(x.log)], r)

@@ -490,11 +490,13 @@ func TestManyPacketsAsTheReference(t *testing.T) {
 					if rnd.Intn(4) == 0 {
 						w.reopen()
 					}
+				case 5:
+					w.audit(rnd)
 				default:
 					w.receive(w.anyPacket(rnd, step/3))
 				}
 			}
-			wantLog(t, "P15: what is on the device", w.d.(*api.Disk).After(nil), w.ref.log)
+			wantBook(t, "P15: what is on the device", w.d.(*api.Disk).After(nil), w.ref.log, w.ref.keys)
 		}
 	}
 }
@@ -566,9 +568,11 @@ type lossy struct {
 func newLossy(t *testing.T, rnd *rand.Rand, last, blocks int) *lossy {
 	t.Helper()
 	l := &lossy{post: newPost(rnd)}
-	for role := range last + 1 {
+	for role := range last {
 		l.nodes = append(l.nodes, newTwin(t, role, last, blocks))
 	}
+	// Its keys take room, too: without more of it, it could not take all entries of the others.
+	l.nodes = append(l.nodes, newTwin(t, last, last, blocks+1<<aHeight))
 	return l
 }
 
@@ -589,6 +593,8 @@ func (l *lossy) next(no int) {
 		l.send(some.tick())
 	case what == 6 && l.rnd.Intn(3) == 0:
 		some.reopen()
+	case what == 7:
+		some.audit(l.rnd)
 	default:
 		l.step(l.receive)
 	}
@@ -608,7 +614,9 @@ func TestLossyChains(t *testing.T) {
 				if !slices.Equal(w.ref.log, log) || w.ref.acked() != len(log) {
 					t.Fatalf("P16: node %d of 0 to %d has %d entries, %d acked, node 0 %d", w.ref.role, last, len(w.ref.log), w.ref.acked(), len(log))
 				}
-				wantState(t, "P16: at rest", w.x, log.state(true))
+				want := log.state(true)
+				want.Keys = w.ref.keys
+				wantState(t, "P16: at rest", w.x, want)
 			}
 			l.wantAnswers(t, log)
 		}

@@ -46,11 +46,19 @@ func fill(t *testing.T, x *auditbook.Node, entries int) refLog {
 	return log
 }
 
-// wantLog opens a device, and holds against a log all that it can be asked without a new entry.
+// wantLog opens a device on which no key is used, and holds it against a log.
 func wantLog(t *testing.T, what string, d api.Device, log refLog) {
 	t.Helper()
+	wantBook(t, what, d, log, 0)
+}
+
+// wantBook opens a device, and holds against a log, and how many keys are used, all that it can be asked without a new entry or key.
+func wantBook(t *testing.T, what string, d api.Device, log refLog, keys int) {
+	t.Helper()
 	x := mustOpen(t, d, 0, 0)
-	wantState(t, what, x, log.state(true))
+	want := log.state(true)
+	want.Keys = keys
+	wantState(t, what, x, want)
 	for client := 1; client <= api.MaxClient; client++ {
 		if n := log.last(client); n > 0 {
 			wantPackets(t, what, x, log[n-1], log.answerPacket(n))
@@ -317,6 +325,26 @@ func wantFailed(t *testing.T, x *auditbook.Node, r api.Request) {
 	wantState(t, "P11: a node that has failed", x, api.State{})
 }
 
+// wantSureEvents: a last node has just the events of a log, whether it has failed or not.
+func wantSureEvents(t *testing.T, x *auditbook.Node, log refLog) {
+	t.Helper()
+	n, events := len(log), log.events()
+	if n > 0 {
+		b, proof, err := x.Event(n-1, n)
+		if err != nil || b != events[n-1] || !slices.Equal(proof, refInclusion(events, n-1)) {
+			t.Errorf("P18: the last event: %x, %x, %v", b, proof, err)
+		}
+	}
+	proof, err := x.Grown(n/2, n)
+	if err != nil || !slices.Equal(proof, refConsistency(events, n/2, true)) {
+		t.Errorf("P18: Grown(%d, %d): %x, %v", n/2, n, proof, err)
+	}
+	_, _, err = x.Event(n, n+1)
+	wantErr(t, "P18: an event that is not sure", err, api.ErrIndex)
+	_, err = x.Grown(0, n+1)
+	wantErr(t, "P18: events that are not sure", err, api.ErrIndex)
+}
+
 // Where nothing is written, an error of the device is not met.
 func TestRequestThatWritesNothing(t *testing.T) {
 	d, log := filled(t, 9, 8)
@@ -380,8 +408,9 @@ type wreck struct {
 	rnd    *rand.Rand
 	d      *shaky
 	x      *auditbook.Node
-	logs   []refLog // any of these may be there
-	noBook bool     // or none
+	height int       // of the node
+	books  []refNode // any of these may be there
+	noBook bool      // or none
 }
 
 // step does one thing of those that a device meets.
@@ -396,6 +425,8 @@ func (w *wreck) step(no int) {
 		w.x = nil
 	case what < 6 || w.x == nil:
 		w.open()
+	case what < 8:
+		w.head()
 	default:
 		w.request(anyRequest(w.rnd, no))
 	}
@@ -405,11 +436,12 @@ func (w *wreck) format() {
 	w.x = nil
 	told := w.d.told
 	err := auditbook.Format(w.d)
+	empty := refNode{blocks: w.d.Blocks()}
 	if err == nil {
-		w.logs, w.noBook = []refLog{nil}, false
+		w.books, w.noBook = []refNode{empty}, false
 		return
 	}
-	w.logs = append(w.logs, nil)
+	w.books = append(w.books, empty)
 	if plain.Told(err) != api.ErrIO || w.d.told == told {
 		w.t.Errorf("P10: Format: %v, and %d errors told", err, w.d.told-told)
 	}
@@ -417,7 +449,8 @@ func (w *wreck) format() {
 
 func (w *wreck) open() {
 	told := w.d.told
-	x, err := auditbook.Open(w.d, 0, 0, aSeed(), 0)
+	w.height = w.rnd.Intn(4)
+	x, err := auditbook.Open(w.d, 0, 0, aSeed(), w.height)
 	w.x = x
 	if plain.Told(err) == api.ErrCorrupt && w.noBook || plain.Told(err) == api.ErrIO && w.d.told > told {
 		return
@@ -425,31 +458,62 @@ func (w *wreck) open() {
 	if err != nil {
 		w.t.Fatalf("P11: Open: %v", err)
 	}
-	i := slices.IndexFunc(w.logs, func(l refLog) bool { return l.state(true) == x.See() })
+	i := slices.IndexFunc(w.books, func(b refNode) bool { return b.state() == x.See() })
 	if i < 0 {
 		w.t.Fatalf("P11: Open found %+v, which can't be there", x.See())
 	}
-	w.logs, w.noBook = []refLog{w.logs[i]}, false
+	there := w.books[i]
+	there.reopen()
+	w.books, w.noBook = []refNode{there}, false
 	for client := 1; client <= api.MaxClient; client++ {
-		if n := w.logs[0].last(client); n > 0 {
-			wantPackets(w.t, "P11: what was found", x, w.logs[0][n-1], w.logs[0].answerPacket(n))
+		if n := there.log.last(client); n > 0 {
+			wantPackets(w.t, "P11: what was found", x, there.log[n-1], there.log.answerPacket(n))
 		}
 	}
 }
 
-func (w *wreck) request(r api.Request) {
+// writes does what may be one thing more in the book, and tells if that failed as it may.
+func (w *wreck) writes(wrong api.Errno, then refNode, call func() error) bool {
 	told := w.d.told
-	want, wrong, then := w.logs[0].request(r, 0, w.d.Blocks())
-	got, err := w.x.Request(r)
+	err := call()
 	if w.d.told > told && wrong == api.OK && plain.Told(err) == api.ErrIO {
-		wantFailed(w.t, w.x, r)
-		w.logs, w.x = append(w.logs, then), nil
-		return
+		wantFailed(w.t, w.x, create(1, 1, 1, ""))
+		wantSureEvents(w.t, w.x, w.books[0].log)
+		w.books, w.x = append(w.books, then), nil
+		return true
 	}
-	if plain.Told(err) != wrong || !slices.Equal(got, want) {
-		w.t.Fatalf("P14: Request of %+v: %+v, %v, want %+v, %v", r, got, err, want, wrong)
+	if plain.Told(err) != wrong {
+		w.t.Fatalf("P1: %v, want %v", err, wrong)
 	}
-	w.logs = []refLog{then}
+	w.books = []refNode{then}
+	return false
+}
+
+func (w *wreck) request(r api.Request) {
+	then := w.books[0]
+	want, wrong := then.request(r)
+	var got []api.Packet
+	failed := w.writes(wrong, then, func() (err error) {
+		got, err = w.x.Request(r)
+		return err
+	})
+	if !failed && !slices.Equal(got, want) {
+		w.t.Fatalf("P14: Request of %+v: %+v, want %+v", r, got, want)
+	}
+}
+
+// head: no key that has signed, or may have, signs anything else.
+func (w *wreck) head() {
+	then := w.books[0]
+	want, wrong := then.sign(w.height)
+	got := ""
+	failed := w.writes(wrong, then, func() (err error) {
+		got, err = w.x.Head()
+		return err
+	})
+	if !failed && got != want || failed && got != "" {
+		w.t.Fatalf("P17: Head: %.38x.., want %.38x..", got, want)
+	}
 }
 
 func TestWrecks(t *testing.T) {
@@ -513,6 +577,9 @@ func askAll(d api.Device) {
 		for _, b := range []string{forwardBytes(1, create(1, 1, 1, "x")), forwardBytes(2, create(1, 2, 1, "x")), ackBytes(1), askBytes(0)} {
 			x.Receive(b)
 			x.Tick()
+			x.Head()
+			x.Event(0, 1)
+			x.Grown(0, 1)
 		}
 		x.See()
 	}

@@ -27,7 +27,7 @@ func formatted(t *testing.T, blocks int) *api.Disk {
 
 func mustOpen(t *testing.T, d api.Device, role, last int) *auditbook.Node {
 	t.Helper()
-	x, err := auditbook.Open(d, role, last, aSeed(), 2)
+	x, err := auditbook.Open(d, role, last, aSeed(), aHeight)
 	if err != nil || x == nil {
 		t.Fatalf("P11: Open as node %d of 0 to %d: %v", role, last, err)
 	}

@@ -131,6 +131,17 @@ func refConsistencyHolds(m, n int, first, second string, proof []string) bool {
 	return top && old == first && now == second
 }
 
+// refGrew tells if P7 takes a proof that a tree has grown from m leaves to n.
+func refGrew(m, n int, first, second string, proof []string) bool {
+	switch m {
+	case 0:
+		return first == refSum() && len(proof) == 0 && (n > 0 || second == first)
+	case n:
+		return first == second && len(first) == 32 && len(proof) == 0
+	}
+	return refConsistencyHolds(m, n, first, second, proof)
+}
+
 // sameLeaves are trees whose leaves are all the same: so a root hangs on how many there are alone, and trees of any size can be made.
 type sameLeaves struct {
 	leaf  string

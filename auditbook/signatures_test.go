@@ -351,6 +351,9 @@ func lend(text string) (string, []byte) {
 	return unsafe.String(unsafe.SliceData(b), len(b)), b
 }
 
+// bytesOf gives the bytes that a text stands on, which must be on no constant's place.
+func bytesOf(text string) []byte { return unsafe.Slice(unsafe.StringData(text), len(text)) }
+
 func TestTextsForSigningAreNeitherWrittenIntoNorKept(t *testing.T) {
 	seed, msg := aSeed(), pattern(200)
 	key := strings.Clone(mustKey(t, seed, 3))

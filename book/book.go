@@ -1,4 +1,4 @@
-// Package book keeps a log of requests with their answers, and the records that they made, in a journal.
+// Package book keeps a log of requests with their answers, the records that they made, and how many keys are used, in a journal.
 package book
 
 import (
@@ -6,17 +6,22 @@ import (
 
 	"auditbook/api"
 	"auditbook/entry"
+	"auditbook/event"
 	"auditbook/journal"
 	"auditbook/records"
 	"auditbook/volume"
 )
 
-// Book is a log, and what follows from it.
+// keyMark is all that the journal has of a used key: which one it is, follows from how many are ahead of it.
+const keyMark = "K"
+
+// Book is a log, with what follows from it, and a count of used keys.
 type Book struct {
 	journal *journal.Journal
 	log     []entry.Entry
 	lasts   map[int]int // by client: the number of its last entry
 	records records.Records
+	keys    int
 }
 
 // Open gives the book that is on a volume; ErrCorrupt, if there is none.
@@ -27,13 +32,24 @@ func Open(v volume.Volume) (*Book, error) {
 	}
 	b := &Book{journal: j, lasts: map[int]int{}, records: records.Records{}}
 	for _, record := range found {
-		r, ok := entry.Decode(record)
-		if !ok {
+		if !b.read(record) {
 			return nil, api.ErrCorrupt
 		}
-		b.add(r)
 	}
 	return b, nil
+}
+
+// read adds what a record of the journal has, and tells if that is anything.
+func (b *Book) read(record string) bool {
+	if record == keyMark {
+		b.keys++
+		return true
+	}
+	r, ok := entry.Decode(record)
+	if ok {
+		b.add(r)
+	}
+	return ok
 }
 
 // Take makes a whole request a new entry, which is sure; there must be room for it. ErrIO tells that it may be there, or not.
@@ -52,7 +68,16 @@ func (b *Book) add(r api.Request) {
 	b.lasts[r.Client] = len(b.log)
 }
 
-// Full tells if there is no room for one more entry.
+// UseKey counts one more key as used, which is sure; there must be room for it. ErrIO tells that it may be used, or not.
+func (b *Book) UseKey() error {
+	if err := b.journal.Append(keyMark); err != nil {
+		return err
+	}
+	b.keys++
+	return nil
+}
+
+// Full tells if there is no room for one more entry, or used key.
 func (b *Book) Full() bool { return b.journal.Full() }
 
 // Entries is how many entries there are.
@@ -60,6 +85,16 @@ func (b *Book) Entries() int { return len(b.log) }
 
 // Entry gives entry n, from 1 on.
 func (b *Book) Entry(n int) entry.Entry { return b.log[n-1] }
+
+// Events gives the bytes of the first n events, of which there must be so many.
+func (b *Book) Events(n int) []string {
+	all := make([]string, n)
+	for i := range all {
+		// An entry's request is whole, and so its event is, too.
+		all[i], _ = event.Encode(b.log[i].Event())
+	}
+	return all
+}
 
 // Last is the number of a client's last entry, or 0 if it has none.
 func (b *Book) Last(client int) int { return b.lasts[client] }
@@ -75,3 +110,6 @@ func (b *Book) LastNo(client int) int {
 
 // Records is how many records there are.
 func (b *Book) Records() int { return len(b.records) }
+
+// Keys is how many keys are used.
+func (b *Book) Keys() int { return b.keys }

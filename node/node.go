@@ -2,6 +2,8 @@
 package node
 
 import (
+	"strings"
+
 	"auditbook/api"
 	"auditbook/book"
 	"auditbook/entry"
@@ -13,9 +15,13 @@ import (
 type Node struct {
 	place
 	*book.Book
-	known  int  // entries that a node which is not the last knows to be in all logs
-	heard  bool // a Forward has come
-	failed bool
+	seed     string
+	height   int
+	known    int  // entries that a node which is not the last knows to be in all logs
+	heard    bool // a Forward has come
+	failed   bool
+	head     string // the last one that was signed since Open, or none
+	headSize int    // entries that it is over
 }
 
 // Open makes a node of the book on a device.
@@ -35,7 +41,8 @@ func Open(d api.Device, role, last int, seed string, height int) (*Node, error) 
 	if err != nil {
 		return nil, err
 	}
-	return &Node{place: p, Book: b}, nil
+	// The seed is kept, and must not be the caller's.
+	return &Node{place: p, Book: b, seed: strings.Clone(seed), height: height}, nil
 }
 
 // See tells what can be seen of a node; of one that has failed nothing, since its device may have more than it knows.
@@ -43,7 +50,7 @@ func (x *Node) See() api.State {
 	if x.failed {
 		return api.State{}
 	}
-	return api.State{Log: x.Entries(), Acked: x.acked(), Records: x.Records()}
+	return api.State{Log: x.Entries(), Acked: x.acked(), Records: x.Records(), Keys: x.Keys()}
 }
 
 // acked is how many entries are known to be in all logs.
@@ -85,11 +92,7 @@ func (x *Node) again(n int) []api.Packet {
 
 // take makes a request a new entry.
 func (x *Node) take(r api.Request) ([]api.Packet, error) {
-	if x.Full() {
-		return nil, api.ErrFull
-	}
-	if err := x.Take(r); err != nil {
-		x.failed = true
+	if err := x.write(func() error { return x.Take(r) }); err != nil {
 		return nil, err
 	}
 	n := x.Entries()
@@ -102,10 +105,12 @@ func (x *Node) take(r api.Request) ([]api.Packet, error) {
 	return []api.Packet{x.ack(), x.answer(n)}, nil
 }
 
-// Head signs no head yet; a node that has failed says so all the same.
-func (x *Node) Head() (string, error) {
-	if x.failed {
-		return "", api.ErrFailed
+// write does what puts one more thing into the book, if there is room; once that fails, nobody knows what the device has.
+func (x *Node) write(do func() error) error {
+	if x.Full() {
+		return api.ErrFull
 	}
-	return "", nil
+	err := do()
+	x.failed = err != nil
+	return err
 }

@@ -31,7 +31,7 @@ func Sign(seed string, height, k int, msg string) (string, error) {
 	}
 	shown := digits(hash.Of(msg))
 	values := goAlong(beginnings(seed, k), func(chain int) int { return shown[chain] })
-	sig := make([]byte, 0, size(height))
+	sig := make([]byte, 0, Size(height))
 	sig = append(sig, byte(k))
 	sig = append(sig, values...)
 	for _, beside := range path {
@@ -45,13 +45,13 @@ func Check(key string, height int, msg, sig string) (int, error) {
 	if !Fits(key, height) {
 		return 0, api.ErrSeed
 	}
-	if len(sig) != size(height) {
+	if len(sig) != Size(height) {
 		return 0, api.ErrSignature
 	}
 	k := int(sig[0])
 	leaf := finish(sig[valuesAt:pathAt], msg)
 	// A first byte that is no key's number is refused here, too: it is no place in the tree.
-	if tree.CheckInclusion(leaf, k, keyCount(height), key, cut(sig[pathAt:])) != nil {
+	if tree.CheckInclusion(leaf, k, KeyCount(height), key, cut(sig[pathAt:])) != nil {
 		return 0, api.ErrSignature
 	}
 	return k, nil
@@ -62,14 +62,15 @@ func Fits(text string, height int) bool {
 	return len(text) == api.HashSize && 0 <= height && height <= api.MaxHeight
 }
 
-func keyCount(height int) int { return 1 << height }
+// KeyCount is how many keys a tree has.
+func KeyCount(height int) int { return 1 << height }
 
-// size is how many bytes a signature has.
-func size(height int) int { return pathAt + height*api.HashSize }
+// Size is how many bytes a signature has.
+func Size(height int) int { return pathAt + height*api.HashSize }
 
 // leaves are the ends of all chains, a text for each key.
 func leaves(seed string, height int) []string {
-	all := make([]string, keyCount(height))
+	all := make([]string, KeyCount(height))
 	for k := range all {
 		all[k] = goAlong(beginnings(seed, k), func(int) int { return topDigit })
 	}
